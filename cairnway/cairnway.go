@@ -4,6 +4,7 @@ package cairnway
 import (
 	"cairnway/api"
 	"cairnway/module"
+	"cairnway/reach"
 )
 
 // Shelf has modules that are published.
@@ -86,7 +87,44 @@ func (s *Shelf) Needs(m api.Mod) ([]api.Mod, api.Errno) {
 
 // Build tells what a build takes (P7).
 func (s *Shelf) Build(roots []api.Mod) ([]api.Mod, api.Errno, api.Mod) {
-	return nil, api.OK, api.Mod{}
+	ordered, e := checkRoots(roots)
+	if e != api.OK {
+		return nil, e, api.Mod{}
+	}
+	taken, e, missing := s.take(ordered)
+	if e != api.OK {
+		return nil, e, api.Mod(missing)
+	}
+	return module.ToPlain(taken), api.OK, api.Mod{}
+}
+
+// checkRoots gives the roots in order, with memory of their own, as answers are made of them.
+func checkRoots(roots []api.Mod) ([]module.Module, api.Errno) {
+	if len(roots) > api.MaxRoots {
+		return nil, api.ErrMany
+	}
+	named := module.FromPlain(roots)
+	if e := module.Check(named); e != api.OK {
+		return nil, e
+	}
+	return module.Ordered(named), api.OK
+}
+
+// take tells what the roots build, or the first module in order that is missing for it.
+func (s *Shelf) take(roots []module.Module) ([]module.Module, api.Errno, module.Module) {
+	published, missing := reach.From(roots, s.tell)
+	if len(missing) > 0 {
+		return nil, api.ErrNone, missing[0]
+	}
+	return module.Greatest(published), api.OK, module.Module{}
+}
+
+func (s *Shelf) tell(m module.Module) ([]module.Module, bool) {
+	found := s.published[m]
+	if found == nil {
+		return nil, false
+	}
+	return found.needs, true
 }
 
 // Why tells by which way a build comes to a path (P8).

@@ -63,6 +63,17 @@ func Ordered(list []Module) []Module {
 	return ordered
 }
 
+// Greatest gives, of modules in order, a fresh list of the one with the greatest version of each path.
+func Greatest(ordered []Module) []Module {
+	var greatest []Module
+	for i, m := range ordered {
+		if i+1 == len(ordered) || ordered[i+1].Path != m.Path {
+			greatest = append(greatest, m)
+		}
+	}
+	return greatest
+}
+
 // Check tells what is wrong with modules that are named together.
 // Each error is asked of all of them ahead of the next one, as the document names them.
 func Check(list []Module) api.Errno {

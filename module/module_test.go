@@ -57,6 +57,31 @@ func TestPlainListsAreFresh(t *testing.T) {
 	}
 }
 
+func TestGreatestOfEachPath(t *testing.T) {
+	for _, c := range []struct {
+		name          string
+		ordered, want []Module
+	}{
+		{"nothing", nil, nil},
+		{"one", []Module{{"a", 3}}, []Module{{"a", 3}}},
+		{"one path", []Module{{"a", 2}, {"a", 9}, {"a", 10}}, []Module{{"a", 10}}},
+		{"several paths", []Module{{"a", 1}, {"a", 2}, {"aa", 1}, {"b", 1}, {"b", 7}}, []Module{{"a", 2}, {"aa", 1}, {"b", 7}}},
+		{"one version, other paths", []Module{{"a", 1}, {"b", 1}, {"c", 1}}, []Module{{"a", 1}, {"b", 1}, {"c", 1}}},
+	} {
+		kept := slices.Clone(c.ordered)
+		got := Greatest(c.ordered)
+		if !slices.Equal(got, c.want) {
+			t.Errorf("%s: Greatest = %v, want %v", c.name, got, c.want)
+		}
+		for i := range got {
+			got[i] = Module{"q", 9}
+		}
+		if !slices.Equal(c.ordered, kept) {
+			t.Errorf("%s: Greatest is no fresh list: %v", c.name, c.ordered)
+		}
+	}
+}
+
 func TestCheck(t *testing.T) {
 	for _, c := range []struct {
 		name string
