@@ -157,14 +157,19 @@ func wantRootsRefused(t *testing.T, s *cairnway.Shelf, name string, roots []api.
 	}
 }
 
-func TestP7BuildTellsTheFirstError(t *testing.T) {
-	s := shelf(t, "a1: b1", "b1", "c1: m1")
+// wrong is a list of roots that is none.
+type wrong struct {
+	name  string
+	roots []api.Mod
+	want  api.Errno
+}
+
+// wrongRoots are for a shelf on which, of c 1's needs, something is missing.
+func wrongRoots(t *testing.T) []wrong {
+	t.Helper()
 	long := strings.Repeat("a", api.MaxPath+1)
-	for _, c := range []struct {
-		name  string
-		roots []api.Mod
-		want  api.Errno
-	}{
+	return []wrong{
+		{"one too many", mods(t, "a1 b1 c1 d1 e1 f1 g1 h1 i1"), api.ErrMany},
 		{"many, one path", mods(t, "a1 a1 a1 a1 a1 a1 a1 a1 a1"), api.ErrMany},
 		{"many and all else wrong", make([]api.Mod, api.MaxRoots+1), api.ErrMany},
 		{"very many", make([]api.Mod, 1000000), api.ErrMany},
@@ -186,7 +191,12 @@ func TestP7BuildTellsTheFirstError(t *testing.T) {
 		{"path twice", mods(t, "a1 b1 a2"), api.ErrTwice},
 		{"one root twice", mods(t, "a1 a1"), api.ErrTwice},
 		{"path twice behind what is missing", mods(t, "c1 q1 q2"), api.ErrTwice},
-	} {
+	}
+}
+
+func TestP7BuildTellsTheFirstError(t *testing.T) {
+	s := shelf(t, "a1: b1", "b1", "c1: m1")
+	for _, c := range wrongRoots(t) {
 		wantRootsRefused(t, s, c.name, c.roots, c.want)
 	}
 	wantBuild(t, s, "a1", "a1 b1")
@@ -250,15 +260,12 @@ func TestP2BuildsOfOtherShelves(t *testing.T) {
 	wantBuild(t, other, "b2", "b2")
 }
 
-// TestP1NoGoroutineGoesOnBehindBuild bears goroutines that are about to end, but none that stays.
-func TestP1NoGoroutineGoesOnBehindBuild(t *testing.T) {
-	s := shelf(t, "a1: b1 c1 d1 e1 f1 g1", "b1: h1", "c1", "d1", "e1", "f1", "g1", "h1", "k1: n1 o1 p1 q1 r1 s1")
+// wantNoneBehind bears goroutines that are about to end, but none that stays.
+func wantNoneBehind(t *testing.T, calls func()) {
+	t.Helper()
 	before := runtime.NumGoroutine()
 	for range 100 {
-		wantBuild(t, s, "a1", "a1 b1 c1 d1 e1 f1 g1 h1")
-		wantMissing(t, s, "a1 k1", "n1")
-		wantBuild(t, s, "", "")
-		wantRootsRefused(t, s, "twice", mods(t, "a1 a1"), api.ErrTwice)
+		calls()
 	}
 	for range 1000000 {
 		if runtime.NumGoroutine() <= before {
@@ -266,10 +273,22 @@ func TestP1NoGoroutineGoesOnBehindBuild(t *testing.T) {
 		}
 		runtime.Gosched()
 	}
-	t.Errorf("%d goroutines ahead of the builds, %d behind them", before, runtime.NumGoroutine())
+	t.Errorf("%d goroutines ahead of the calls, %d behind them", before, runtime.NumGoroutine())
 }
 
-func TestP7BuildOfAFullShelf(t *testing.T) {
+func TestP1NoGoroutineGoesOnBehindBuild(t *testing.T) {
+	s := shelf(t, "a1: b1 c1 d1 e1 f1 g1", "b1: h1", "c1", "d1", "e1", "f1", "g1", "h1", "k1: n1 o1 p1 q1 r1 s1")
+	wantNoneBehind(t, func() {
+		wantBuild(t, s, "a1", "a1 b1 c1 d1 e1 f1 g1 h1")
+		wantMissing(t, s, "a1 k1", "n1")
+		wantBuild(t, s, "", "")
+		wantRootsRefused(t, s, "twice", mods(t, "a1 a1"), api.ErrTwice)
+	})
+}
+
+// fullShelf has as many modules as may be, of seven paths: each needs all other paths, a version lower where there is one.
+func fullShelf(t *testing.T) *cairnway.Shelf {
+	t.Helper()
 	s := cairnway.New()
 	paths := []string{"a", "b", "c", "d", "e", "f", "g"}
 	count := 0
@@ -287,6 +306,11 @@ func TestP7BuildOfAFullShelf(t *testing.T) {
 			count++
 		}
 	}
+	return s
+}
+
+func TestP7BuildOfAFullShelf(t *testing.T) {
+	s := fullShelf(t)
 	for range 20 {
 		wantBuild(t, s, "a1", "a1 b1 c1 d1 e1 f1 g1")
 		wantBuild(t, s, "d9", "a8 b8 c8 d9 e8 f8 g8")

@@ -2,6 +2,8 @@
 package cairnway
 
 import (
+	"slices"
+
 	"cairnway/api"
 	"cairnway/module"
 	"cairnway/reach"
@@ -87,15 +89,27 @@ func (s *Shelf) Needs(m api.Mod) ([]api.Mod, api.Errno) {
 
 // Build tells what a build takes (P7).
 func (s *Shelf) Build(roots []api.Mod) ([]api.Mod, api.Errno, api.Mod) {
+	reached, e := s.reachFrom(roots)
+	switch e {
+	case api.OK:
+		return module.ToPlain(reached.Build()), api.OK, api.Mod{}
+	case api.ErrNone:
+		return nil, e, api.Mod(reached.Missing[0])
+	}
+	return nil, e, api.Mod{}
+}
+
+// reachFrom tells what the roots reach, and the error of Build: with ErrNone something of it is missing.
+func (s *Shelf) reachFrom(roots []api.Mod) (reach.Reached, api.Errno) {
 	ordered, e := checkRoots(roots)
 	if e != api.OK {
-		return nil, e, api.Mod{}
+		return reach.Reached{}, e
 	}
-	taken, e, missing := s.take(ordered)
-	if e != api.OK {
-		return nil, e, api.Mod(missing)
+	reached := reach.From(ordered, s.tell)
+	if len(reached.Missing) > 0 {
+		return reached, api.ErrNone
 	}
-	return module.ToPlain(taken), api.OK, api.Mod{}
+	return reached, api.OK
 }
 
 // checkRoots gives the roots in order, with memory of their own, as answers are made of them.
@@ -110,15 +124,6 @@ func checkRoots(roots []api.Mod) ([]module.Module, api.Errno) {
 	return module.Ordered(named), api.OK
 }
 
-// take tells what the roots build, or the first module in order that is missing for it.
-func (s *Shelf) take(roots []module.Module) ([]module.Module, api.Errno, module.Module) {
-	published, missing := reach.From(roots, s.tell)
-	if len(missing) > 0 {
-		return nil, api.ErrNone, missing[0]
-	}
-	return module.Greatest(published), api.OK, module.Module{}
-}
-
 func (s *Shelf) tell(m module.Module) ([]module.Module, bool) {
 	found := s.published[m]
 	if found == nil {
@@ -128,10 +133,36 @@ func (s *Shelf) tell(m module.Module) ([]module.Module, bool) {
 }
 
 // Why tells by which way a build comes to a path (P8).
-func (s *Shelf) Why(roots []api.Mod, path string) ([]api.Mod, api.Errno) { return nil, api.OK }
+func (s *Shelf) Why(roots []api.Mod, path string) ([]api.Mod, api.Errno) {
+	reached, e := s.reachFrom(roots)
+	if e != api.OK {
+		return nil, e
+	}
+	for _, taken := range reached.Build() {
+		if taken.Path == path {
+			return module.ToPlain(reached.Way(taken)), api.OK
+		}
+	}
+	return nil, api.ErrAbsent
+}
 
 // Tidy leaves out what need not be said (P9).
-func (s *Shelf) Tidy(roots []api.Mod) ([]api.Mod, api.Errno) { return nil, api.OK }
+func (s *Shelf) Tidy(roots []api.Mod) ([]api.Mod, api.Errno) {
+	reached, e := s.reachFrom(roots)
+	if e != api.OK {
+		return nil, e
+	}
+	left, built := reached.Roots, reached.Build()
+	// What is left out stands behind the next one to ask about, whose place is the same then.
+	for i := len(left) - 1; i >= 0; i-- {
+		without := slices.Concat(left[:i], left[i+1:])
+		// Fewer roots reach no more, so nothing is missing there either.
+		if slices.Equal(reach.From(without, s.tell).Build(), built) {
+			left = without
+		}
+	}
+	return module.ToPlain(left), api.OK
+}
 
 // Upgrade asks for the greatest version of a path (P10).
 func (s *Shelf) Upgrade(roots []api.Mod, path string) ([]api.Mod, api.Errno) { return nil, api.OK }

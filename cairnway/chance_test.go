@@ -38,16 +38,32 @@ type graph map[api.Mod][]api.Mod
 func (c *chance) publishSome(t *testing.T, s *cairnway.Shelf, g graph, times int) {
 	t.Helper()
 	for range times {
-		m := mod(string(rune('a'+c.below(9))), 1+c.below(4))
-		needs := c.some(3, m.Path)
-		want := api.OK
-		if _, ok := g[m]; ok {
-			want = api.ErrThere
-		} else {
-			g[m] = needs
-		}
-		wantErrno(t, "Publish", s.Publish(m, needs), want)
+		c.publish(t, s, g, mod(string(rune('a'+c.below(9))), 1+c.below(4)), 3)
 	}
+}
+
+// publishMost leaves hardly a module out, so that most builds have no error.
+func (c *chance) publishMost(t *testing.T, s *cairnway.Shelf, g graph) {
+	t.Helper()
+	for path := 'a'; path <= 'i'; path++ {
+		for version := 1; version <= 4; version++ {
+			if c.below(100) > 0 {
+				c.publish(t, s, g, mod(string(path), version), 2)
+			}
+		}
+	}
+}
+
+func (c *chance) publish(t *testing.T, s *cairnway.Shelf, g graph, m api.Mod, mostNeeds int) {
+	t.Helper()
+	needs := c.some(mostNeeds, m.Path)
+	want := api.OK
+	if _, ok := g[m]; ok {
+		want = api.ErrThere
+	} else {
+		g[m] = needs
+	}
+	wantErrno(t, "Publish", s.Publish(m, needs), want)
 }
 
 func inOrder(a, b api.Mod) int {
@@ -110,6 +126,124 @@ func TestP7AgainstAPlainBuild(t *testing.T) {
 	}
 	if fine < 100 || failed < 100 {
 		t.Errorf("the test is lopsided: %d builds, %d without one", fine, failed)
+	}
+}
+
+// way is P8 told once more in the plainest way: the first way of this length, if there is one.
+func (g graph) way(from []api.Mod, to api.Mod, length int) []api.Mod {
+	for _, m := range slices.SortedFunc(slices.Values(from), inOrder) {
+		if length == 1 && m == to {
+			return []api.Mod{m}
+		}
+		if length > 1 {
+			if rest := g.way(g[m], to, length-1); rest != nil {
+				return append([]api.Mod{m}, rest...)
+			}
+		}
+	}
+	return nil
+}
+
+func (g graph) shortestWay(roots []api.Mod, to api.Mod) []api.Mod {
+	length := 1
+	for g.way(roots, to, length) == nil {
+		length++
+	}
+	return g.way(roots, to, length)
+}
+
+func TestP8AgainstAPlainWay(t *testing.T) {
+	c := chance(8)
+	lengths := make(map[int]int)
+	absent := 0
+	for range 400 {
+		s, g := cairnway.New(), graph{}
+		c.publishMost(t, s, g)
+		roots := c.some(1+c.below(3), "")
+		built, missing := g.build(roots)
+		for path := 'a'; path <= 'i'; path++ {
+			at := slices.IndexFunc(built, func(m api.Mod) bool { return m.Path == string(path) })
+			switch {
+			case len(missing) > 0:
+				wantNoWay(t, s, roots, string(path), api.ErrNone)
+			case at < 0:
+				absent++
+				wantNoWay(t, s, roots, string(path), api.ErrAbsent)
+			default:
+				way := g.shortestWay(roots, built[at])
+				lengths[len(way)]++
+				wantWhy(t, s, show(roots), string(path), show(way))
+			}
+		}
+	}
+	if absent < 100 || lengths[1] < 100 || lengths[2] < 100 || lengths[3] < 100 || lengths[4] < 30 {
+		t.Errorf("the test is lopsided: %d absent, ways by length %v", absent, lengths)
+	}
+}
+
+// tidy is P9 told once more in the plainest way.
+func (g graph) tidy(roots []api.Mod) []api.Mod {
+	left := slices.SortedFunc(slices.Values(roots), inOrder)
+	whole, _ := g.build(roots)
+	for _, root := range slices.Backward(slices.Clone(left)) {
+		without := slices.DeleteFunc(slices.Clone(left), func(m api.Mod) bool { return m == root })
+		if built, _ := g.build(without); slices.Equal(built, whole) {
+			left = without
+		}
+	}
+	return left
+}
+
+func TestP9AgainstAPlainTidy(t *testing.T) {
+	c := chance(9)
+	asIs, less := 0, 0
+	for round := range 400 {
+		s, g := cairnway.New(), graph{}
+		c.publishMost(t, s, g)
+		roots := c.some(api.MaxRoots, "")
+		if _, missing := g.build(roots); len(missing) > 0 {
+			wantUntidied(t, s, strconv.Itoa(round), roots, api.ErrNone)
+			continue
+		}
+		want := g.tidy(roots)
+		wantTidy(t, s, show(roots), show(want))
+		if len(want) < len(roots) {
+			less++
+		} else {
+			asIs++
+		}
+	}
+	if asIs < 50 || less < 50 {
+		t.Errorf("the test is lopsided: %d as they were, %d less some", asIs, less)
+	}
+}
+
+// TestP9WhatIsTidiedBuildsTheSame and none of it can be spared.
+func TestP9WhatIsTidiedBuildsTheSame(t *testing.T) {
+	c := chance(99)
+	spared := 0
+	for range 300 {
+		s, g := cairnway.New(), graph{}
+		c.publishMost(t, s, g)
+		roots := c.some(api.MaxRoots, "")
+		built, e, _ := s.Build(roots)
+		left, f := s.Tidy(roots)
+		wantErrno(t, "Tidy("+show(roots)+")", f, e)
+		if e != api.OK {
+			continue
+		}
+		spared += len(roots) - len(left)
+		wantBuild(t, s, show(left), show(built))
+		wantTidy(t, s, show(left), show(left))
+		for i := range left {
+			without := slices.Delete(slices.Clone(left), i, i+1)
+			if fewer, _, _ := s.Build(without); slices.Equal(fewer, built) {
+				t.Errorf("Tidy(%s) = %s, but %s builds the same", show(roots), show(left), show(without))
+			}
+		}
+	}
+	if spared < 50 {
+		t.Errorf("the test is lopsided: %d roots were spared", spared)
 	}
 }
 

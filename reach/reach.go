@@ -2,6 +2,7 @@
 package reach
 
 import (
+	"maps"
 	"slices"
 	"sync"
 
@@ -10,7 +11,7 @@ import (
 
 const askedAtOnce = 4
 
-// Teller tells what a module needs, and if it is published.
+// Teller tells what a module needs, in order, and if it is published.
 // Goroutines ask it at the same time, so it may only read, and what it tells is only read.
 type Teller func(m module.Module) (needs []module.Module, published bool)
 
@@ -20,22 +21,35 @@ type answer struct {
 	published bool
 }
 
-// From tells what is reached from the roots: what of it is published, and what is missing, each in order.
-func From(roots []module.Module, tell Teller) (published, missing []module.Module) {
+// Reached is all that a build comes to, each list in order.
+type Reached struct {
+	Roots     []module.Module
+	Published []module.Module
+	Missing   []module.Module
+	needs     map[module.Module][]module.Module // of what is published
+}
+
+// From tells what is reached from roots that are in order.
+func From(roots []module.Module, tell Teller) Reached {
 	questions, answers := make(chan module.Module), make(chan answer)
 	var asked sync.WaitGroup
 	for range askedAtOnce {
 		asked.Go(func() { answerAll(questions, answers, tell) })
 	}
-	w := walk{seen: make(map[module.Module]struct{})}
+	w := walk{seen: make(map[module.Module]struct{}), needs: make(map[module.Module][]module.Module)}
 	w.come(roots)
 	w.run(questions, answers)
 	close(questions)
 	asked.Wait()
 	// The answers came as the goroutines ran: nothing of that may be seen.
-	slices.SortFunc(w.published, module.Module.Compare)
 	slices.SortFunc(w.missing, module.Module.Compare)
-	return w.published, w.missing
+	published := slices.SortedFunc(maps.Keys(w.needs), module.Module.Compare)
+	return Reached{Roots: roots, Published: published, Missing: w.missing, needs: w.needs}
+}
+
+// Build gives a fresh list of the module with the greatest version of each path, in order.
+func (r Reached) Build() []module.Module {
+	return module.Greatest(r.Published)
 }
 
 func answerAll(questions <-chan module.Module, answers chan<- answer, tell Teller) {
@@ -46,10 +60,10 @@ func answerAll(questions <-chan module.Module, answers chan<- answer, tell Telle
 }
 
 type walk struct {
-	seen      map[module.Module]struct{}
-	waiting   []module.Module // seen, but not asked about yet
-	published []module.Module
-	missing   []module.Module
+	seen    map[module.Module]struct{}
+	waiting []module.Module // seen, but not asked about yet
+	needs   map[module.Module][]module.Module
+	missing []module.Module
 }
 
 func (w *walk) come(list []module.Module) {
@@ -87,6 +101,6 @@ func (w *walk) take(a answer) {
 		w.missing = append(w.missing, a.asked)
 		return
 	}
-	w.published = append(w.published, a.asked)
+	w.needs[a.asked] = a.needs
 	w.come(a.needs)
 }

@@ -41,9 +41,12 @@ func teller(t *testing.T, texts ...string) Teller {
 
 func wantFrom(t *testing.T, roots string, tell Teller, published, missing string) {
 	t.Helper()
-	p, m := From(list(t, roots), tell)
-	if !slices.Equal(p, list(t, published)) || !slices.Equal(m, list(t, missing)) {
-		t.Errorf("From(%s) = %v, missing %v, want %s, missing %s", roots, p, m, published, missing)
+	got := From(list(t, roots), tell)
+	if !slices.Equal(got.Published, list(t, published)) || !slices.Equal(got.Missing, list(t, missing)) {
+		t.Errorf("From(%s) = %v, missing %v, want %s, missing %s", roots, got.Published, got.Missing, published, missing)
+	}
+	if !slices.Equal(got.Roots, list(t, roots)) {
+		t.Errorf("From(%s) has the roots %v", roots, got.Roots)
 	}
 }
 
@@ -59,6 +62,19 @@ func TestFromNeedsNothingOfWhatIsMissing(t *testing.T) {
 	needed := list(t, "b1")
 	tell := func(m module.Module) ([]module.Module, bool) { return needed, m.Path == "b" }
 	wantFrom(t, "a1", tell, "", "a1")
+}
+
+func TestBuildIsTheGreatestOfEachPath(t *testing.T) {
+	reached := From(list(t, "a1 b1"), teller(t, "a1: c9 d2", "b1: c10", "c9", "c10: d1", "d1", "d2"))
+	for range 2 {
+		built := reached.Build()
+		if !slices.Equal(built, list(t, "a1 b1 c10 d2")) {
+			t.Errorf("Build = %v", built)
+		}
+		for i := range built {
+			built[i].Path = "q"
+		}
+	}
 }
 
 func TestFromLeavesTheRoots(t *testing.T) {
