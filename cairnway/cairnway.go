@@ -138,12 +138,11 @@ func (s *Shelf) Why(roots []api.Mod, path string) ([]api.Mod, api.Errno) {
 	if e != api.OK {
 		return nil, e
 	}
-	for _, taken := range reached.Build() {
-		if taken.Path == path {
-			return module.ToPlain(reached.Way(taken)), api.OK
-		}
+	taken, ok := reached.Taken(path)
+	if !ok {
+		return nil, api.ErrAbsent
 	}
-	return nil, api.ErrAbsent
+	return module.ToPlain(reached.Way(taken)), api.OK
 }
 
 // Tidy leaves out what need not be said (P9).
@@ -165,7 +164,61 @@ func (s *Shelf) Tidy(roots []api.Mod) ([]api.Mod, api.Errno) {
 }
 
 // Upgrade asks for the greatest version of a path (P10).
-func (s *Shelf) Upgrade(roots []api.Mod, path string) ([]api.Mod, api.Errno) { return nil, api.OK }
+func (s *Shelf) Upgrade(roots []api.Mod, path string) ([]api.Mod, api.Errno) {
+	reached, e := s.reachFrom(roots)
+	if e != api.OK {
+		return nil, e
+	}
+	asked, ok := reached.Taken(path)
+	if !ok {
+		return nil, api.ErrAbsent
+	}
+	// Where all of the path is retracted this is 0, which is above nothing.
+	latest, _ := s.Latest(path)
+	if latest <= asked.Version {
+		return module.ToPlain(reached.Roots), api.OK
+	}
+	asked.Version = latest
+	upgraded := module.With(reached.Roots, asked)
+	if len(upgraded) > api.MaxRoots {
+		return nil, api.ErrMany
+	}
+	return module.ToPlain(upgraded), api.OK
+}
 
 // Downgrade goes back, till a path has no greater version (P11).
-func (s *Shelf) Downgrade(roots []api.Mod, m api.Mod) ([]api.Mod, api.Errno) { return nil, api.OK }
+func (s *Shelf) Downgrade(roots []api.Mod, m api.Mod) ([]api.Mod, api.Errno) {
+	reached, e := s.reachFrom(roots)
+	if e != api.OK {
+		return nil, e
+	}
+	most := module.Module(m)
+	if e := module.Check([]module.Module{most}); e != api.OK {
+		return nil, e
+	}
+	var downgraded []module.Module
+	for _, root := range reached.Roots {
+		if fitting, ok := s.goBack(root, most); ok {
+			downgraded = append(downgraded, fitting)
+		}
+	}
+	return module.ToPlain(downgraded), api.OK
+}
+
+// goBack tells the greatest published version of a root, not above its own, that fits.
+func (s *Shelf) goBack(root, most module.Module) (module.Module, bool) {
+	for tried := root; tried.Version >= 1; tried.Version-- {
+		// What is not published does not fit either: there is no need to ask for its build.
+		if s.published[tried] != nil && s.fits(tried, most) {
+			return tried, true
+		}
+	}
+	return module.Module{}, false
+}
+
+// fits tells if a build of a root alone has no error, and nothing of most's path above it.
+func (s *Shelf) fits(root, most module.Module) bool {
+	reached := reach.From([]module.Module{root}, s.tell)
+	taken, ok := reached.Taken(most.Path)
+	return len(reached.Missing) == 0 && (!ok || taken.Version <= most.Version)
+}

@@ -247,6 +247,172 @@ func TestP9WhatIsTidiedBuildsTheSame(t *testing.T) {
 	}
 }
 
+// retractSome retracts modules by chance, and tells which.
+func (c *chance) retractSome(t *testing.T, s *cairnway.Shelf, g graph, times int) map[api.Mod]bool {
+	t.Helper()
+	retracted := make(map[api.Mod]bool)
+	for range times {
+		m := mod(string(rune('a'+c.below(9))), 1+c.below(4))
+		if _, ok := g[m]; ok && !retracted[m] {
+			wantErrno(t, "Retract", s.Retract(m), api.OK)
+			retracted[m] = true
+		}
+	}
+	return retracted
+}
+
+// versionOf is 0, where there is no module of this path.
+func versionOf(list []api.Mod, path string) int {
+	for _, m := range list {
+		if m.Path == path {
+			return m.Version
+		}
+	}
+	return 0
+}
+
+// upgrade is P10 told once more in the plainest way, for roots of which nothing is missing.
+func (g graph) upgrade(roots []api.Mod, path string, retracted map[api.Mod]bool) ([]api.Mod, api.Errno) {
+	built, _ := g.build(roots)
+	has, latest := versionOf(built, path), 0
+	for m := range g {
+		if m.Path == path && !retracted[m] {
+			latest = max(latest, m.Version)
+		}
+	}
+	upgraded := slices.SortedFunc(slices.Values(roots), inOrder)
+	switch {
+	case has == 0:
+		return nil, api.ErrAbsent
+	case latest <= has:
+		return upgraded, api.OK
+	case versionOf(roots, path) > 0:
+		for i := range upgraded {
+			if upgraded[i].Path == path {
+				upgraded[i].Version = latest
+			}
+		}
+		return upgraded, api.OK
+	case len(roots) == api.MaxRoots:
+		return nil, api.ErrMany
+	}
+	return slices.SortedFunc(slices.Values(append(upgraded, mod(path, latest))), inOrder), api.OK
+}
+
+func TestP10AgainstAPlainUpgrade(t *testing.T) {
+	c := chance(10)
+	as, more, instead := 0, 0, 0
+	errors := make(map[api.Errno]int)
+	for range 500 {
+		s, g := cairnway.New(), graph{}
+		c.publishMost(t, s, g)
+		retracted := c.retractSome(t, s, g, c.below(40))
+		roots := c.some(1+c.below(60), "")
+		roots = roots[:min(len(roots), api.MaxRoots)]
+		_, missing := g.build(roots)
+		for path := 'a'; path <= 'i'; path++ {
+			want, e := g.upgrade(roots, string(path), retracted)
+			if len(missing) > 0 {
+				e = api.ErrNone
+			}
+			errors[e]++
+			if e != api.OK {
+				wantNoUpgrade(t, s, roots, string(path), e)
+				continue
+			}
+			wantUpgrade(t, s, show(roots), string(path), show(want))
+			switch {
+			case len(want) > len(roots):
+				more++
+			case slices.Equal(want, slices.SortedFunc(slices.Values(roots), inOrder)):
+				as++
+			default:
+				instead++
+			}
+		}
+	}
+	if as < 100 || more < 100 || instead < 100 || errors[api.ErrNone] < 100 || errors[api.ErrAbsent] < 100 || errors[api.ErrMany] < 30 {
+		t.Errorf("the test is lopsided: %d as they were, %d with one more, %d with one in place, errors %v", as, more, instead, errors)
+	}
+}
+
+// downgrade is P11 told once more in the plainest way, for roots of which nothing is missing.
+func (g graph) downgrade(roots []api.Mod, m api.Mod) []api.Mod {
+	var fitting []api.Mod
+	for tried := range g {
+		built, missing := g.build([]api.Mod{tried})
+		if tried.Version <= versionOf(roots, tried.Path) && len(missing) == 0 && versionOf(built, m.Path) <= m.Version {
+			fitting = append(fitting, tried)
+		}
+	}
+	return greatest(fitting)
+}
+
+func TestP11AgainstAPlainDowngrade(t *testing.T) {
+	c := chance(11)
+	as, less, lower, failed := 0, 0, 0, 0
+	for range 400 {
+		s, g := cairnway.New(), graph{}
+		c.publishMost(t, s, g)
+		c.retractSome(t, s, g, c.below(40))
+		roots := c.some(api.MaxRoots, "")
+		_, missing := g.build(roots)
+		for path := 'a'; path <= 'i'; path++ {
+			m := mod(string(path), 1+c.below(4))
+			if len(missing) > 0 {
+				failed++
+				wantNoDowngrade(t, s, show(roots), roots, m, api.ErrNone)
+				continue
+			}
+			want := g.downgrade(roots, m)
+			wantDowngrade(t, s, show(roots), show([]api.Mod{m}), show(want))
+			switch {
+			case len(want) < len(roots):
+				less++
+			case slices.Equal(want, slices.SortedFunc(slices.Values(roots), inOrder)):
+				as++
+			default:
+				lower++
+			}
+		}
+	}
+	if as < 100 || less < 100 || lower < 100 || failed < 100 {
+		t.Errorf("the test is lopsided: %d as they were, %d less some, %d lower, %d without a build", as, less, lower, failed)
+	}
+}
+
+func TestP12WhatDowngradeTellsBuilds(t *testing.T) {
+	c := chance(112)
+	held, lower := 0, 0
+	for range 500 {
+		s, g := cairnway.New(), graph{}
+		c.publishMost(t, s, g)
+		c.retractSome(t, s, g, c.below(20))
+		roots := c.some(api.MaxRoots, "")
+		before, e, _ := s.Build(roots)
+		for path := 'a'; path <= 'i'; path++ {
+			m := mod(string(path), 1+c.below(4))
+			told, f := s.Downgrade(roots, m)
+			wantErrno(t, "Downgrade("+show(roots)+")", f, e)
+			if e != api.OK {
+				continue
+			}
+			held++
+			built, e, missing := s.Build(told)
+			if e != api.OK || versionOf(built, m.Path) > m.Version {
+				t.Errorf("Downgrade(%s; %v) = %s, which builds %s, %d, %v", show(roots), m, show(told), show(built), e, missing)
+			}
+			if versionOf(before, m.Path) > m.Version {
+				lower++
+			}
+			wantDowngrade(t, s, show(told), show([]api.Mod{m}), show(told))
+		}
+	}
+	if held < 500 || lower < 200 {
+		t.Errorf("the test is lopsided: %d builds, of which %d had to go back", held, lower)
+	}
+}
+
 func TestP12WhatIsPublishedOrRetractedChangesNoBuild(t *testing.T) {
 	c := chance(12)
 	held := 0

@@ -147,12 +147,17 @@ func TestP8RootsAtTheEdges(t *testing.T) {
 	}
 }
 
-func TestP8AbsentIsAnyPathThatTheBuildHasNot(t *testing.T) {
-	s := shelf(t, "a1: bb1", "a2: c1", "bb1", "c1", "d1: m1")
-	for _, path := range []string{
+// absentPaths are in no build of which nothing but a and bb is reached.
+func absentPaths() []string {
+	return []string{
 		"", "b", "bbb", "c", "d", "m", "A", "a1", "a ", "A!", "ä", "\xff", "a\x00",
 		strings.Repeat("a", api.MaxPath+1), strings.Repeat("a", 1<<22),
-	} {
+	}
+}
+
+func TestP8AbsentIsAnyPathThatTheBuildHasNot(t *testing.T) {
+	s := shelf(t, "a1: bb1", "a2: c1", "bb1", "c1", "d1: m1")
+	for _, path := range absentPaths() {
 		wantNoWay(t, s, mods(t, "a1"), path, api.ErrAbsent)
 	}
 	wantWhy(t, s, "a1", "bb", "a1 bb1")
@@ -196,16 +201,10 @@ func TestP2WhyLeavesWhatIsHandedIn(t *testing.T) {
 
 func TestP2WaysAreTheCallers(t *testing.T) {
 	s := shelf(t, "a1: b1", "b1: c1", "c1")
-	first, _ := s.Why(mods(t, "a1"), "c")
-	second, _ := s.Why(mods(t, "a1"), "c")
-	first = first[:cap(first)]
-	for i := range first {
-		first[i] = mod("q", 9)
-	}
-	if show(second) != "a1 b1 c1" {
-		t.Errorf("two answers share memory: %s", show(second))
-	}
-	wantWhy(t, s, "a1", "c", "a1 b1 c1")
+	wantCallers(t, "a1 b1 c1", func() []api.Mod {
+		way, _ := s.Why(mods(t, "a1"), "c")
+		return way
+	})
 	wantNeeds(t, s, "a1", "b1")
 }
 

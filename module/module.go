@@ -74,6 +74,18 @@ func Greatest(ordered []Module) []Module {
 	return greatest
 }
 
+// With gives a fresh list of the modules, in order, with m in place of the one of its path, or as one more.
+func With(list []Module, m Module) []Module {
+	with := []Module{m}
+	for _, other := range list {
+		if other.Path != m.Path {
+			with = append(with, other)
+		}
+	}
+	slices.SortFunc(with, Module.Compare)
+	return with
+}
+
 // Check tells what is wrong with modules that are named together.
 // Each error is asked of all of them ahead of the next one, as the document names them.
 func Check(list []Module) api.Errno {

@@ -82,6 +82,37 @@ func TestGreatestOfEachPath(t *testing.T) {
 	}
 }
 
+func TestWithInPlaceOrAsOneMore(t *testing.T) {
+	for _, c := range []struct {
+		name string
+		list []Module
+		m    Module
+		want []Module
+	}{
+		{"nothing", nil, Module{"a", 1}, []Module{{"a", 1}}},
+		{"greater", []Module{{"a", 9}, {"b", 9}, {"c", 9}}, Module{"b", 10}, []Module{{"a", 9}, {"b", 10}, {"c", 9}}},
+		{"lesser", []Module{{"a", 9}, {"b", 9}, {"c", 9}}, Module{"c", 1}, []Module{{"a", 9}, {"b", 9}, {"c", 1}}},
+		{"the same", []Module{{"a", 9}, {"b", 9}}, Module{"a", 9}, []Module{{"a", 9}, {"b", 9}}},
+		{"ahead of all", []Module{{"b", 1}, {"c", 1}}, Module{"a", 2}, []Module{{"a", 2}, {"b", 1}, {"c", 1}}},
+		{"between", []Module{{"a", 1}, {"b", 1}}, Module{"aa", 2}, []Module{{"a", 1}, {"aa", 2}, {"b", 1}}},
+		{"behind all", []Module{{"a", 1}, {"b", 1}}, Module{"c", 2}, []Module{{"a", 1}, {"b", 1}, {"c", 2}}},
+	} {
+		// The spare room of the list is the caller's too.
+		spare := append(slices.Clone(c.list), Module{"s", 7})
+		kept := slices.Clone(spare)
+		got := With(spare[:len(c.list)], c.m)
+		if !slices.Equal(got, c.want) {
+			t.Errorf("%s: With = %v, want %v", c.name, got, c.want)
+		}
+		for i := range got {
+			got[i] = Module{"q", 9}
+		}
+		if !slices.Equal(spare, kept) {
+			t.Errorf("%s: With is no fresh list: %v", c.name, spare)
+		}
+	}
+}
+
 func TestCheck(t *testing.T) {
 	for _, c := range []struct {
 		name string

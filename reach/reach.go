@@ -52,6 +52,16 @@ func (r Reached) Build() []module.Module {
 	return module.Greatest(r.Published)
 }
 
+// Taken tells which module of a path the build has, if it has one.
+func (r Reached) Taken(path string) (module.Module, bool) {
+	for _, m := range r.Build() {
+		if m.Path == path {
+			return m, true
+		}
+	}
+	return module.Module{}, false
+}
+
 func answerAll(questions <-chan module.Module, answers chan<- answer, tell Teller) {
 	for m := range questions {
 		needs, published := tell(m)

@@ -77,6 +77,24 @@ func TestBuildIsTheGreatestOfEachPath(t *testing.T) {
 	}
 }
 
+func TestTakenIsThatOfTheBuild(t *testing.T) {
+	reached := From(list(t, "a1 b1"), teller(t, "a1: c9 d2", "b1: c10 m1", "c9", "c10: d1", "d1", "d2", "e1"))
+	for _, want := range list(t, "a1 b1 c10 d2") {
+		if got, ok := reached.Taken(want.Path); got != want || !ok {
+			t.Errorf("Taken(%s) = %v, %t, want %v", want.Path, got, ok, want)
+		}
+	}
+	// Neither what is not reached, nor what is missing, nor what is no path.
+	for _, path := range []string{"e", "m", "", "aa", "A"} {
+		if got, ok := reached.Taken(path); got != (module.Module{}) || ok {
+			t.Errorf("Taken(%q) = %v, %t", path, got, ok)
+		}
+	}
+	if got, ok := From(nil, teller(t, "a1")).Taken("a"); ok {
+		t.Errorf("without roots Taken(a) = %v", got)
+	}
+}
+
 func TestFromLeavesTheRoots(t *testing.T) {
 	roots := list(t, "c1 b1 a1 x7")
 	From(roots[:3], teller(t, "c1: d1", "b1", "a1"))
